@@ -1,7 +1,5 @@
 package world
 
-import "strongbox/server"
-
 // death is one that is to come: at which act, and which of the writes that are not flushed then stay.
 type death struct {
 	act  int
@@ -31,7 +29,7 @@ func (w *world) await(d death) {
 // arm arms the disk with the first death of the row, if there is one.
 func (w *world) arm() {
 	if len(w.row) > 0 {
-		w.disk.Arm(w.row[0].act)
+		w.Disk.Arm(w.row[0].act)
 	}
 }
 
@@ -39,10 +37,10 @@ func (w *world) arm() {
 func (w *world) revive() int {
 	died := 0
 	// It dies by the first death of the row alone, so there is one.
-	for w.disk.Dead() {
+	for w.Disk.Dead() {
 		first := w.row[0]
 		w.row = w.row[1:]
-		w.reopen(first.kept(w.disk.Pending()))
+		w.reopen(first.kept(w.Disk.Pending()))
 		died++
 	}
 	return died
@@ -50,7 +48,7 @@ func (w *world) revive() int {
 
 // reopen lets a disk, dead or not, crash and live again, and opens the store on it, if it does not die of that.
 func (w *world) reopen(keep []int) {
-	w.disk.Crash(keep)
+	w.Disk.Crash(keep)
 	w.arm()
-	w.server, _ = server.Open(w.disk)
+	w.Open(w.Disk)
 }

@@ -3,41 +3,17 @@ package world
 import (
 	"slices"
 	"testing"
-
-	"strongbox/api"
 )
-
-// Some statuses no line can tell, yet each has its word.
-func TestW3StatusWords(t *testing.T) {
-	for status, want := range []string{
-		"done", "challenge", "need", "badframe", "notallowed", "notenant", "exists", "noroom", "notempty", "novolume", "toomany", "outofrange", "overquota", "unmapped",
-	} {
-		if got := outcome(api.AskTrim, api.Reply{Status: api.Status(status)}); got != want {
-			t.Errorf("status %d: %q, want %q", status, got, want)
-		}
-	}
-	if len(statusWords) != 14 {
-		t.Errorf("%d words", len(statusWords))
-	}
-}
-
-// Of a reply that is not Done nothing but its status is told, whatever it is to.
-func TestW3OutcomesThatAreNotDone(t *testing.T) {
-	for kind := range api.AskTrim + 1 {
-		if got := outcome(kind, api.Reply{Status: api.NoTenant}); got != "notenant" {
-			t.Errorf("kind %d: %q", kind, got)
-		}
-	}
-}
 
 // Each line that there is has a form, and no two have the same.
 func TestW1EachKindHasAForm(t *testing.T) {
+	forms := language().Forms
 	for k, form := range forms {
-		if form == "" || slices.Index(forms[:], form) != k {
+		if form == "" || slices.Index(forms, form) != k {
 			t.Errorf("kind %d has the form %q", k, form)
 		}
 	}
-	if len(forms) != int(lineActs)+1 {
+	if len(forms) != lineActs+1 {
 		t.Errorf("%d forms", len(forms))
 	}
 }
@@ -53,23 +29,6 @@ func TestW3WhatStaysOfUnflushedWrites(t *testing.T) {
 	} {
 		if got := (death{bits: x.bits}).kept(x.pending); !slices.Equal(got, x.want) {
 			t.Errorf("%s of %d: %v, want %v", x.bits, x.pending, got, x.want)
-		}
-	}
-}
-
-// A line in which the disk died leaves no client waiting.
-func TestW3WhatAClientWaitedForIsCancelled(t *testing.T) {
-	var w world
-	for _, words := range [][]string{{"disk", "128"}, {"admin", "add", "1", "9"}, {"1", "vol", "1"}, {"1", "write", "1", "0", "a"}, {"arm", "3", "0"}, {"1", "write", "1", "0", "b"}, {"arm", "3", "0"}, {"1", "write", "1", "0", "a"}, {"arm", "3", "0"}, {"1", "trim", "1", "0"}} {
-		l, isLine := lineOf(words)
-		if !isLine {
-			t.Fatalf("%v is no line", words)
-		}
-		w.play(l)
-		for k := 1; k <= api.MaxTenants; k++ {
-			if _, errno := w.clients[k].Take(""); errno != api.ErrClientIdle {
-				t.Errorf("behind %v client %d waits: %d", words, k, errno)
-			}
 		}
 	}
 }

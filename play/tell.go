@@ -1,4 +1,4 @@
-package world
+package play
 
 import (
 	"strconv"
@@ -25,9 +25,12 @@ var statusWords = [...]string{
 	api.Unmapped:   "unmapped",
 }
 
+// Status is the word for what became of a request.
+func Status(s api.Status) string { return statusWords[s] }
+
 // outcome is what is told of a request of a kind that was answered so. (Of a Read Data is the block, not the chunk.)
 func outcome(kind int, r api.Reply) string {
-	told := statusWords[r.Status]
+	told := Status(r.Status)
 	if r.Status != api.Done {
 		return told
 	}
@@ -53,12 +56,17 @@ func outcome(kind int, r api.Reply) string {
 
 // listText is numbers with commas between, as they come.
 func listText(numbers []int) string {
-	if len(numbers) == 0 {
-		return "-"
-	}
 	texts := make([]string, len(numbers))
 	for i, n := range numbers {
 		texts[i] = strconv.Itoa(n)
+	}
+	return List(texts)
+}
+
+// List is texts with commas between, as they come.
+func List(texts []string) string {
+	if len(texts) == 0 {
+		return "-"
 	}
 	return strings.Join(texts, ",")
 }
